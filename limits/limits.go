@@ -1,0 +1,8 @@
+// Package limits has the document's limits, as far as the program asks for them.
+package limits
+
+const (
+	MaxText = 20000 // bytes of a text
+	MaxTerm = 200   // bytes of a term
+	MaxSet  = 300   // sentences of a set
+)
