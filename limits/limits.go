@@ -2,7 +2,9 @@
 package limits
 
 const (
-	MaxText = 20000 // bytes of a text
-	MaxTerm = 200   // bytes of a term
-	MaxSet  = 300   // sentences of a set
+	MaxText  = 20000 // bytes of a text
+	MaxTerm  = 200   // bytes of a term
+	MaxSet   = 300   // sentences of a set
+	MaxNest  = 8     // open brackets around another one
+	MaxNames = 12    // names of a text that is printed
 )

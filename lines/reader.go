@@ -57,9 +57,7 @@ func (r *reader) blanks() {
 
 func (r *reader) comment() {
 	if r.Sees('#') {
-		for !r.lineEnded() {
-			r.Skip()
-		}
+		r.SkipLine()
 	}
 }
 

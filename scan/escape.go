@@ -19,7 +19,7 @@ const (
 )
 
 // escape reads a "\" and what stands behind it: the number of a character of the set, or one of the short signs.
-func (r *Reader) escape(has set, short string) rune {
+func (r *Reader) escape(has Set, short string) rune {
 	start := r.at
 	r.Want('\\')
 	switch {
@@ -28,15 +28,15 @@ func (r *Reader) escape(has set, short string) rune {
 	case r.Take('U'):
 		return r.numbered(start, 8, has)
 	}
-	sign := r.wants(oneOf(short))
+	sign := r.wants(OneOf(short))
 	return rune(shortMeant[strings.IndexRune(shortSigns, sign)])
 }
 
 // numbered reads the signs of a number. Only when all of them stand there is it known which character is meant, so one that may not stand there is met at start, where its escape begins.
-func (r *Reader) numbered(start, signs int, has set) rune {
+func (r *Reader) numbered(start, signs int, has Set) rune {
 	var number uint32
 	for range signs {
-		number = number<<hexBits | hexValue(r.wants(oneOf(hexSigns)))
+		number = number<<hexBits | hexValue(r.wants(OneOf(hexSigns)))
 	}
 	c := rune(number) // above 7FFFFFFF it is less than 0, which is no right one either
 	if !utf8.ValidRune(c) || !has(c) {
@@ -47,7 +47,7 @@ func (r *Reader) numbered(start, signs int, has set) rune {
 
 func hexValue(sign rune) uint32 {
 	switch {
-	case digit(sign):
+	case Digit(sign):
 		return uint32(sign - '0')
 	case sign < 'a':
 		return uint32(sign-'A') + 10

@@ -47,9 +47,9 @@ func (r *Reader) WantEnd() {
 	}
 }
 
-// Skip reads the byte that stands next, whatever it is.
-func (r *Reader) Skip() {
-	if !r.Ended() {
+// SkipLine reads all bytes that are left of the line.
+func (r *Reader) SkipLine() {
+	for !r.Ended() && !r.Sees('\n') {
 		r.at++
 	}
 }
@@ -66,10 +66,11 @@ func (r *Reader) refuse() { Refuse(api.ErrText, r.at) }
 // stop is what a reader panics with: it may be deep within a term, and nothing is read behind a fault.
 type stop struct{ cause error }
 
+// GiveUp gives up because of cause.
+func GiveUp(cause error) { panic(stop{cause}) }
+
 // Refuse gives up by that number, met at that place.
-func Refuse(number api.Errno, place int) {
-	panic(stop{fault.At(place, fault.New(number))})
-}
+func Refuse(number api.Errno, place int) { GiveUp(fault.At(place, fault.New(number))) }
 
 // Catch runs read; the error is the one by which a reader gave up within it.
 func Catch(read func()) (err error) {

@@ -15,13 +15,37 @@ func TestReaderGoesOnByTheByte(t *testing.T) {
 	if !r.Take('a') || r.Place() != 1 || !r.Sees('b') {
 		t.Fatalf("behind a: %+v", r)
 	}
-	r.Skip()
-	if !r.Ended() || r.Place() != 2 || r.Sees('b') || r.Sees(0) || r.Take(0) {
+	if !r.Take('b') || !r.Ended() || r.Place() != 2 || r.Sees('b') || r.Sees(0) || r.Take(0) {
 		t.Fatalf("at the end: %+v", r)
 	}
-	r.Skip()
-	if r.Place() != 2 {
-		t.Fatalf("behind the end: %+v", r)
+}
+
+func TestSkipLineEndsAheadOfTheNewline(t *testing.T) {
+	for text, place := range map[string]int{"": 0, "\nx": 0, "a\xff\r\x00\nx": 4, "ab": 2} {
+		r := Over(text)
+		r.SkipLine()
+		r.SkipLine()
+		if r.Place() != place {
+			t.Errorf("%q: at %d", text, r.Place())
+		}
+	}
+}
+
+func TestRunReadsAllOfTheSet(t *testing.T) {
+	set := Either(Letter, OneOf("é\uFFFD"))
+	for _, c := range []struct{ text, run string }{
+		{"", ""}, {"1a", ""}, {"aZé1", "aZé"}, {"ab", "ab"}, {"a\xc3", "a"}, {"\uFFFD\xff", "\uFFFD"}, {"\xe9", ""},
+	} {
+		r := Over(c.text)
+		if r.SeesOf(set) != (c.run != "") {
+			t.Errorf("%q: sees it: %t", c.text, r.SeesOf(set))
+		}
+		if run := r.Run(set); run != c.run || r.Place() != len(run) {
+			t.Errorf("%q: %q", c.text, run)
+		}
+		if AllOf(c.text, set) != (c.run == c.text) {
+			t.Errorf("%q: all of it: %t", c.text, AllOf(c.text, set))
+		}
 	}
 }
 
@@ -39,6 +63,7 @@ func TestCatchHandsOnWhyAReaderGaveUp(t *testing.T) {
 		{r.WantEnd, api.OK, 0},
 		{func() { r.Want(0) }, api.ErrText, 2},
 		{func() { Refuse(api.ErrTerm, 7) }, api.ErrTerm, 7},
+		{func() { GiveUp(Catch(func() { Refuse(api.ErrName, 8) })) }, api.ErrName, 8},
 	} {
 		err := Catch(c.read)
 		if fault.Number(err) != c.number || fault.Place(err) != c.place {
@@ -97,7 +122,7 @@ func TestTermOfAnotherKindIsMetAtItsFirstByte(t *testing.T) {
 	for kind, text := range map[Kind]string{IRI: "<a:b>", Blank: "_:a", Literal: `"x"`} {
 		for _, may := range []Kind{IRI, Blank, Literal} {
 			r := Over(" " + text)
-			r.Skip()
+			r.Take(' ')
 			err := Catch(func() { r.TermOf(may) })
 			if may == kind && err != nil || may != kind && (fault.Number(err) != api.ErrText || fault.Place(err) != 1) {
 				t.Errorf("%q where kind %d may stand: %v", text, may, err)

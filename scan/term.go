@@ -55,11 +55,11 @@ func (k Kind) begun() (byte, func(*Reader) string) {
 
 // IRI reads an iri into its one form.
 func (r *Reader) IRI() string {
-	inScheme := either(letter, digit, oneOf("+-."))
-	inIRI := not(either(control, oneOf("<>\"{}|^`\\")))
+	inScheme := Either(Letter, Digit, OneOf("+-."))
+	inIRI := not(Either(control, OneOf("<>\"{}|^`\\")))
 	since := r.mark()
 	r.Want('<')
-	r.wants(letter)
+	r.wants(Letter)
 	for !r.Take(':') {
 		r.wants(inScheme)
 	}
@@ -81,13 +81,13 @@ func (r *Reader) Blank() string {
 	since := r.mark()
 	r.Want('_')
 	r.Want(':')
-	r.some(either(letter, digit), maxLabel)
+	r.some(Either(Letter, Digit), maxLabel)
 	return since()
 }
 
 // Quoted reads what stands between two '"', and answers the characters meant.
 func (r *Reader) Quoted() string {
-	plain := not(oneOf("\n\r\"\\"))
+	plain := not(OneOf("\n\r\"\\"))
 	var out strings.Builder
 	r.Want('"')
 	for !r.Take('"') {
@@ -103,9 +103,9 @@ func (r *Reader) Quoted() string {
 // Language reads a language.
 func (r *Reader) Language() string {
 	since := r.mark()
-	r.some(letter, maxPart)
+	r.some(Letter, maxPart)
 	for r.Take('-') {
-		r.some(either(letter, digit), maxPart)
+		r.some(Either(Letter, Digit), maxPart)
 	}
 	return since()
 }
