@@ -100,3 +100,9 @@ func Whole[T any](text string, read func(*Reader) T) (T, error) {
 	}
 	return found, nil
 }
+
+// IsWhole tells whether read takes all of the text and answers it as it is. How long a term may be it does not ask: an iri in its one form is one at any length.
+func IsWhole(text string, read func(*Reader) string) bool {
+	found, err := Whole(text, read)
+	return err == nil && found == text
+}

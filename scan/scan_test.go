@@ -1,6 +1,7 @@
 package scan
 
 import (
+	"strings"
 	"testing"
 
 	"trine/api"
@@ -88,6 +89,20 @@ func TestWholeAnswersNothingBesideAnError(t *testing.T) {
 	}
 	if found, err := Whole("<a:b> ", (*Reader).IRI); found != "" || fault.Number(err) != api.ErrText || fault.Place(err) != 5 {
 		t.Errorf("%q, %v", found, err)
+	}
+}
+
+func TestIsWholeAsksForNoLength(t *testing.T) {
+	for n := range 500 {
+		long := strings.Repeat("b", n)
+		if !IsWhole("<a:"+long+">", (*Reader).IRI) {
+			t.Fatalf("an iri of %d bytes is refused", n+4)
+		}
+		for _, text := range []string{"<a:" + long, "<a:" + long + "> ", `<a:\u0062` + long + ">", "<a:" + long + "\xff>", "<" + long + ">", long} {
+			if IsWhole(text, (*Reader).IRI) {
+				t.Fatalf("%q is taken for an iri in its one form", text)
+			}
+		}
 	}
 }
 

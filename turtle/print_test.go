@@ -130,9 +130,31 @@ func TestU2NamesThatMayBe(t *testing.T) {
 			t.Errorf("Short %q: %d", short, number)
 		}
 	}
-	for long, ok := range map[string]bool{"<a:>": true, "<a:b>": true, "<a:é#>": true, "<a:" + x(196) + ">": true, "<a:" + x(197) + ">": false, "": false, "<>": false, "<a>": false, "a:": false, "<a:": false, "<a: >": false, `<a:\u0062>`: false, "_:b": false, `"x"`: false, " <a:>": false, "<a:> ": false, "<a:\xff>": false, "<a:>>": false} {
+	for long, ok := range map[string]bool{"<a:>": true, "<a:b>": true, "<a:é#>": true, "<a:" + x(196) + ">": true, "<a:" + x(197) + ">": true, "<a:" + x(210) + ">": true, "<a:" + strings.Repeat("é", 99) + ">": true, "<a:" + x(30000) + ">": true, "": false, "<>": false, "<a>": false, "a:": false, "<a:": false, "<a: >": false, `<a:\u0062>`: false, "_:b": false, `"x"`: false, " <a:>": false, "<a:> ": false, "<a:\xff>": false, "<a:>>": false,
+		"<" + x(300) + ">": false, "<a:" + x(300): false, "a:" + x(300) + ">": false, "<a:" + x(300) + " >": false, "<a:" + x(300) + "> ": false, "<a:" + x(300) + ">>": false, `<a:\u0062` + x(300) + ">": false, "<a:" + x(300) + "\xff>": false, "_:" + x(300): false, `"` + x(300) + `"`: false, x(30000): false,
+	} {
 		if _, number, _ := Print(nil, []api.Name{{Short: "p", Long: long}}); (number == api.OK) != ok || !ok && number != api.ErrName {
 			t.Errorf("Long %q: %d", long, number)
+		}
+	}
+}
+
+// A long name is printed whole and takes its place among the others, but fits no iri of a set: none is as long.
+func TestU2LongNames(t *testing.T) {
+	long, full := api.Name{Short: "p", Long: "<a:" + x(210) + ">"}, "<a:"+x(196)+">"
+	prints(t, nil, []api.Name{long}, "@prefix p: <a:"+x(210)+"> .\n")
+	names := []api.Name{{Short: "o", Long: "<a:" + x(197) + ">"}, {Short: "q", Long: "<a:>"}, {Short: "f", Long: full}, {Short: "", Long: long.Long}, {Short: "e", Long: "<a:" + x(195) + ">"}, long}
+	prints(t, []api.Triple{{S: "<a:s>", P: "<a:v>", O: `"x"^^<a:k>`}, {S: "<a:s>", P: full, O: full}, {S: "<a:t>", P: isOf, O: "<a:" + x(195) + ">"}}, names,
+		prefixed(names...)+"q:s q:v \"x\"^^q:k ;\n\tf: f: .\nq:t a e: .\n")
+	// a long name is held against the others as any other one
+	for _, c := range []struct {
+		names []api.Name
+		place int
+	}{
+		{[]api.Name{long, {Short: "p", Long: "<a:>"}}, 1}, {[]api.Name{{Short: "p", Long: "<a:>"}, long}, 1}, {[]api.Name{long, {Short: "1", Long: long.Long}}, 1}, {[]api.Name{long, {Short: "q", Long: long.Long + ">"}, {}}, 1},
+	} {
+		if text, number, place := Print(nil, c.names); text != "" || number != api.ErrName || place != c.place {
+			t.Errorf("Print(nil, %.90v) = %.90q, %d, %d, want ErrName at %d", c.names, text, number, place, c.place)
 		}
 	}
 }

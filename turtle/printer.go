@@ -29,8 +29,9 @@ func unprintable(set []api.Triple, names []api.Name) error {
 	return nil
 }
 
+// isName tells whether the name may be given. Its Long is no term of the set, so it may be longer than one.
 func isName(n api.Name) bool {
-	return (n.Short == "" || isRow(n.Short)) && scan.Kind(term.Kind(n.Long)) == scan.IRI
+	return (n.Short == "" || isRow(n.Short)) && scan.IsWhole(n.Long, (*scan.Reader).IRI)
 }
 
 func hasShort(names []api.Name, short string) bool {
